@@ -597,32 +597,42 @@ func TestPromise19BlocksBehindTheLength(t *testing.T) {
 	}
 }
 
-// TestPromise19TreesAreKept gives every function valid and invalid arguments, and looks at the tree afterwards.
-func TestPromise19TreesAreKept(t *testing.T) {
+// someArguments are blocks, steps and slots, some of them valid for every tree.
+func someArguments() []int {
+	return []int{-1, 0, 1, 2, 3, 23, 24, math.MaxInt, math.MinInt}
+}
+
+// withKeptTrees lets use call functions with valid and invalid trees; kept, called after each of them, looks at the tree.
+func withKeptTrees(t *testing.T, use func(tree []impl.Block, kept func(name string))) {
+	t.Helper()
 	trees := someTrees()
 	for _, bad := range badTrees() {
 		trees = append(trees, bad.tree)
 	}
-	numbers := []int{-1, 0, 1, 2, 3, 23, 24, math.MaxInt, math.MinInt}
 	for _, plain := range trees {
 		spare := spareBlock(plain)
 		tree := roomyWith(plain, spare)
-		kept := func(name string) {
+		use(tree, func(name string) {
 			t.Helper()
 			checkKeptWith(t, name, tree, plain, spare)
-		}
+		})
+	}
+}
+
+func TestPromise19TreesAreKept(t *testing.T) {
+	withKeptTrees(t, func(tree []impl.Block, kept func(name string)) {
 		impl.GoodTree(tree)
 		kept("GoodTree")
 		impl.LeapsOf(tree)
 		kept("LeapsOf")
 		impl.LeavesOf(tree)
 		kept("LeavesOf")
-		for _, b := range numbers {
+		for _, b := range someArguments() {
 			impl.DepthOf(tree, b)
 			kept("DepthOf")
 			impl.WayTo(tree, b)
 			kept("WayTo")
-			for _, n := range numbers {
+			for _, n := range someArguments() {
 				impl.AncestorOf(tree, b, n)
 				kept("AncestorOf")
 				impl.HeadAt(tree, b, n)
@@ -633,7 +643,7 @@ func TestPromise19TreesAreKept(t *testing.T) {
 				kept("MeetOf")
 			}
 		}
-	}
+	})
 }
 
 // TestPromise19TreeListsAreNew overwrites each result and expects no other result to change.
