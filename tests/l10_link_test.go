@@ -1111,16 +1111,22 @@ func keptLinks() []linkCase {
 	return cases
 }
 
+// withRoom returns the case with spare elements behind each list, and a function that looks whether all of it is what it was.
+func withRoom(t *testing.T, c linkCase, spare impl.Link) (linkCase, func(name string)) {
+	block := spareBlock(c.tree)
+	given := linkCase{roomyWith(c.tree, block), roomy(c.stakes), roomyWith(c.links, spare)}
+	return given, func(name string) {
+		t.Helper()
+		checkKeptWith(t, name, given.tree, c.tree, block)
+		checkKept(t, name, given.stakes, c.stakes)
+		checkKeptWith(t, name, given.links, c.links, spare)
+	}
+}
+
 func TestPromise19LinksAreKept(t *testing.T) {
 	for _, c := range keptLinks() {
-		spare := spareBlock(c.tree)
-		tree, stakes, links := roomyWith(c.tree, spare), roomy(c.stakes), roomyWith(c.links, spareLink)
-		kept := func(name string) {
-			t.Helper()
-			checkKeptWith(t, name, tree, c.tree, spare)
-			checkKept(t, name, stakes, c.stakes)
-			checkKeptWith(t, name, links, c.links, spareLink)
-		}
+		given, kept := withRoom(t, c, spareLink)
+		tree, stakes, links := given.tree, given.stakes, given.links
 		impl.GoodLinks(tree, stakes, links)
 		kept("GoodLinks")
 		impl.JustifiedIn(tree, stakes, links)
@@ -1152,36 +1158,37 @@ func overwriteLinks(l []impl.Link) {
 	}
 }
 
-// checkLinkListIsNew overwrites a result and the arguments in turn, and expects the others to stay what they were.
-func checkLinkListIsNew(t *testing.T, name string, c linkCase, want []int, call func(c linkCase) []int) {
+// checkLinkListIsNew overwrites a result with junk and then the arguments, and expects the others to stay what they were.
+func checkLinkListIsNew[T comparable](t *testing.T, name string, c linkCase, want []T, junk T, call func(c linkCase) []T) {
 	t.Helper()
-	spare := spareBlock(c.tree)
-	given := linkCase{roomyWith(c.tree, spare), roomy(c.stakes), roomyWith(c.links, spareLink)}
-	checkListIsNew(t, name, want, func() []int { return call(given) })
-	checkKeptWith(t, "overwriting the result of "+name, given.tree, c.tree, spare)
-	checkKept(t, "overwriting the result of "+name, given.stakes, c.stakes)
-	checkKeptWith(t, "overwriting the result of "+name, given.links, c.links, spareLink)
-	last := call(given)
+	given, kept := withRoom(t, c, spareLink)
+	first, second := call(given), call(given)
+	first = first[:cap(first)]
+	for i := range first {
+		first[i] = junk
+	}
+	kept("overwriting the result of " + name)
+	third := call(given)
 	overwriteLinks(given.links)
 	overwrite(given.stakes)
 	clear(given.tree[:cap(given.tree)])
-	if !sameList(last, want) {
-		t.Fatalf("%s of %v shares memory with its arguments: %v, want %v", name, c, last, want)
+	if !slices.Equal(second, want) || !slices.Equal(third, want) {
+		t.Fatalf("%s of %v = %v, then %v, want %v", name, c, second, third, want)
 	}
 }
 
 func TestPromise19LinkListsAreNew(t *testing.T) {
 	for _, c := range someLinks() {
-		checkLinkListIsNew(t, "JustifiedIn", c, plainJustified(c), func(c linkCase) []int {
+		checkLinkListIsNew(t, "JustifiedIn", c, plainJustified(c), -behind, func(c linkCase) []int {
 			l, _ := impl.JustifiedIn(c.tree, c.stakes, c.links)
 			return l
 		})
-		checkLinkListIsNew(t, "FinalIn", c, plainFinal(c), func(c linkCase) []int {
+		checkLinkListIsNew(t, "FinalIn", c, plainFinal(c), -behind, func(c linkCase) []int {
 			l, _ := impl.FinalIn(c.tree, c.stakes, c.links)
 			return l
 		})
 		for _, pair := range linkablePairs(c.tree[:min(len(c.tree), 6)]) {
-			checkLinkListIsNew(t, "WhoLinks", c, plainWhoLinks(c, pair[0], pair[1]), func(c linkCase) []int {
+			checkLinkListIsNew(t, "WhoLinks", c, plainWhoLinks(c, pair[0], pair[1]), -behind, func(c linkCase) []int {
 				who, _ := impl.WhoLinks(c.tree, c.stakes, c.links, pair[0], pair[1])
 				return who
 			})
